@@ -1,0 +1,59 @@
+package ops
+
+import (
+	"quill/api"
+	"quill/chars"
+)
+
+// errorOf tells the first of the errors of an operation on a text of n characters, or OK.
+// Each error is looked for in all parts ahead of the next one, as P2 orders them.
+func errorOf(op []api.Part, n int) api.Errno {
+	switch {
+	case n < 0 || n > api.MaxPos || len(op) > api.MaxParts || !allRight(op):
+		return api.ErrArg
+	case !allCharacters(op):
+		return api.ErrText
+	case reach(op) > n:
+		return api.ErrLength
+	}
+	return api.OK
+}
+
+func allRight(op []api.Part) bool {
+	for _, p := range op {
+		if !right(p) {
+			return false
+		}
+	}
+	return true
+}
+
+// right leaves out whether the Text is all characters, which is an error of its own.
+func right(p api.Part) bool {
+	switch p.Kind {
+	case api.Keep, api.Delete:
+		return p.N >= 1 && p.N <= api.MaxPos && p.Text == ""
+	case api.Insert:
+		return p.N == 0 && p.Text != ""
+	}
+	return false
+}
+
+func allCharacters(op []api.Part) bool {
+	for _, p := range op {
+		if _, ok := chars.Count(p.Text); !ok {
+			return false
+		}
+	}
+	return true
+}
+
+// reach is of how many characters the Keeps and Deletes are together; it asks for right
+// parts, no more than MaxParts, so that an Insert's N is 0 and the sum stays small.
+func reach(op []api.Part) int {
+	n := 0
+	for _, p := range op {
+		n += p.N
+	}
+	return n
+}
