@@ -19,6 +19,16 @@ func errorOf(op []api.Part, n int) api.Errno {
 	return api.OK
 }
 
+// errorOn tells the first of the errors of an operation on a text, or OK.
+func errorOn(text string, op []api.Part) api.Errno {
+	n, ok := chars.Count(text)
+	if !ok {
+		return api.ErrText
+	}
+	// That the text has more than MaxPos characters is the first error of any operation on it.
+	return errorOf(op, n)
+}
+
 func allRight(op []api.Part) bool {
 	for _, p := range op {
 		if !right(p) {
@@ -54,6 +64,20 @@ func reach(op []api.Part) int {
 	n := 0
 	for _, p := range op {
 		n += p.N
+	}
+	return n
+}
+
+// left is how many characters an operation that has no errors leaves of n.
+func left(op []api.Part, n int) int {
+	for _, p := range op {
+		switch p.Kind {
+		case api.Insert:
+			put, _ := chars.Count(p.Text)
+			n += put
+		case api.Delete:
+			n -= p.N
+		}
 	}
 	return n
 }

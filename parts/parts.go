@@ -11,14 +11,14 @@ import (
 // Normal gives an operation in normal form.
 func Normal(op []api.Part) []api.Part {
 	var w Writer
-	for _, p := range op {
-		switch p.Kind {
+	for c := read(op); c.more(); {
+		switch p := c.whole(); p.kind {
 		case api.Keep:
-			w.Keep(p.N)
+			w.Keep(p.n)
 		case api.Insert:
-			w.Insert(p.Text)
+			w.Insert(p.text)
 		case api.Delete:
-			w.Delete(p.N)
+			w.Delete(p.n)
 		}
 	}
 	return w.Parts()
@@ -28,16 +28,16 @@ func Normal(op []api.Part) []api.Part {
 func Apply(text string, op []api.Part) string {
 	var left strings.Builder
 	rest := text
-	for _, p := range op {
-		switch p.Kind {
+	for c := read(op); c.more(); {
+		switch p := c.whole(); p.kind {
 		case api.Keep:
 			var stays string
-			stays, rest = chars.Cut(rest, p.N)
+			stays, rest = chars.Cut(rest, p.n)
 			left.WriteString(stays)
 		case api.Insert:
-			left.WriteString(p.Text)
+			left.WriteString(p.text)
 		case api.Delete:
-			_, rest = chars.Cut(rest, p.N)
+			_, rest = chars.Cut(rest, p.n)
 		}
 	}
 	left.WriteString(rest)

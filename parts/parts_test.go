@@ -63,3 +63,39 @@ func TestAnyNumberOfParts(t *testing.T) {
 		t.Errorf("Apply of %d parts = %q", len(many), s)
 	}
 }
+
+// TestLongOperations: P13 at operations of many parts, and texts of more than MaxPos characters.
+func TestLongOperations(t *testing.T) {
+	n := api.MaxPos + 10
+	text := strings.Repeat("é", n)
+	a := append(op(put("x"), keep(api.MaxPos)), slices.Repeat(op(put("A"), gone(1), keep(1)), 5)...)
+	b := append(op(gone(1), keep(api.MaxPos-1)), slices.Repeat(op(keep(1), put("B")), 10)...)
+	first, second := Transform(a, b)
+	want := "x" + strings.Repeat("é", api.MaxPos-1) + "ABé" + strings.Repeat("ABBé", 4) + "B"
+	if s := Apply(Apply(text, a), second); s != want {
+		t.Errorf("P13: a and b' leave %d bytes, want %d", len(s), len(want))
+	}
+	if s := Apply(Apply(text, b), first); s != want {
+		t.Errorf("P13: b and a' leave %d bytes, want %d", len(s), len(want))
+	}
+	whole := Compose(a, second)
+	if !slices.Equal(whole, Compose(b, first)) || !slices.Equal(whole, Normal(whole)) || Apply(text, whole) != want {
+		t.Errorf("P13: Compose of a and b' = %v, of b and a' = %v", whole, Compose(b, first))
+	}
+	if s := Apply(want, Invert(whole, text)); s != text {
+		t.Errorf("P13: Invert leaves %d bytes, want %d", len(s), len(text))
+	}
+}
+
+func TestManyPartsOfBoth(t *testing.T) {
+	const n = 3000
+	puts, goes := slices.Repeat(op(keep(1), put("é")), n), slices.Repeat(op(keep(1), gone(1)), n/2)
+	want := slices.Repeat(op(keep(1), put("éé"), gone(1)), n/2)
+	first, second := Transform(puts, goes)
+	if l := Compose(puts, second); !slices.Equal(l, want) {
+		t.Errorf("P13: Compose of a and b' is of %d parts, want %d", len(l), len(want))
+	}
+	if l := Compose(goes, first); !slices.Equal(l, want) {
+		t.Errorf("P13: Compose of b and a' is of %d parts, want %d", len(l), len(want))
+	}
+}
