@@ -269,17 +269,3 @@ func TestNothingLeftToDo(t *testing.T) {
 	wants(t, s, "down 1, down 1, down 1", api.OK)
 	clientIs(t, s, 1, "", 3, api.Calm)
 }
-
-// TestStates: each has its number and a function for all that may happen.
-func TestStates(t *testing.T) {
-	numbers := []int{api.Away, api.Calm, api.Waiting, api.Buffered}
-	if len(states) != len(numbers) {
-		t.Fatalf("there are %d states", len(states))
-	}
-	for _, n := range numbers {
-		st := states[n]
-		if st.number != n || st.edit == nil || st.entry == nil || st.answer == nil {
-			t.Errorf("the state %d has the number %d, or a function is missing", n, st.number)
-		}
-	}
-}
